@@ -202,8 +202,6 @@ func TestSame(t *testing.T) {
 		a, b := randomVine(rng, 3, true), randomVine(rng, 3, true)
 		checkSame(t, a, randomWord(rng, len(a), 3), b, randomWord(rng, len(b), 3))
 	}
-	// A bed of three years and one of four turn round, and part only where both have been round.
-	checkSame(t, []string{"b", "c", "a"}, "aab", []string{"b", "c", "d", "a"}, "aab")
 	for _, c := range []struct {
 		a      []string
 		shootA string
