@@ -202,6 +202,8 @@ func TestLoss(t *testing.T) {
 		{2, []int{30, 60, 60, 90}, 1, api.Ratio{Num: 1, Den: 1}},
 		{2, []int{30, 60, 60, 90}, 2, api.Ratio{Num: 1, Den: 1}},
 		{2, []int{30, 60, 60, 90}, 3, api.Ratio{Num: 3, Den: 2}},
+		// The goal can be kept, but not by its means, as two values differ by 120.
+		{2, []int{120, 0, 60, 120}, 1, api.Ratio{Num: 1, Den: 4}},
 		{10, slices.Repeat([]int{300}, 1024), 1023, api.Ratio{Num: 5, Den: 1}},
 		{10, slices.Repeat([]int{600}, 1024), 0, api.Ratio{Num: 5, Den: 1}},
 	} {
